@@ -46,8 +46,8 @@ func TestLibrary(t *testing.T) {
 	}
 }
 
-// The signature that RFC 7515 publishes (A.2).
-func TestPublished(t *testing.T) {
+// The key and the text of RFC 7515, A.2. The signature was not copied from there: it was reckoned with math/big from that key's primes, so it bears no witness beside math/big's.
+func TestKeyOfRfc7515(t *testing.T) {
 	read := func(text string) []byte {
 		b, err := base64.RawURLEncoding.DecodeString(text)
 		if err != nil {
