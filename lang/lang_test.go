@@ -261,8 +261,9 @@ func TestLayout(t *testing.T) {
 	}
 }
 
-// Rules 3a and 3b: what may stand at package level. Only signet's section 'Ways' asks for func init, and a variable that it fills.
+// Rules 3a and 3b: what may stand at package level. Only signet's section 'Ways' asks for func init, and one variable that it fills.
 func TestPackageLevel(t *testing.T) {
+	filled := 0
 	for _, s := range sources(t) {
 		for _, d := range s.file.Decls {
 			switch x := d.(type) {
@@ -273,11 +274,18 @@ func TestPackageLevel(t *testing.T) {
 			case *ast.GenDecl:
 				if x.Tok == token.VAR {
 					for _, spec := range x.Specs {
-						holdVariable(t, s, spec.(*ast.ValueSpec))
+						v := spec.(*ast.ValueSpec)
+						if len(v.Values) == 0 {
+							filled += len(v.Names)
+						}
+						holdVariable(t, s, v)
 					}
 				}
 			}
 		}
+	}
+	if filled > 1 {
+		t.Errorf("%d variables without a value", filled)
 	}
 }
 
